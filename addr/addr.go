@@ -22,7 +22,7 @@ func Parse(text string) (int, error) {
 
 // Print an address.
 func Print(a int) (string, error) {
-	if !isAddress(a) {
+	if !Valid(a) {
 		return "", api.ErrRange
 	}
 	return writeOctets(split(a)), nil
@@ -30,7 +30,7 @@ func Print(a int) (string, error) {
 
 // Check a prefix.
 func Check(p api.Prefix) error {
-	if p.Len < 0 || p.Len > width || !isAddress(p.Addr) {
+	if p.Len < 0 || p.Len > width || !Valid(p.Addr) {
 		return api.ErrRange
 	}
 	if p.Addr&behind(p.Len) != 0 {
@@ -103,13 +103,14 @@ func Up(p api.Prefix) (api.Prefix, error) {
 
 // Both addresses in one.
 func Both(a, b int) (api.Prefix, error) {
-	if !isAddress(a) || !isAddress(b) {
+	if !Valid(a) || !Valid(b) {
 		return api.Prefix{}, api.ErrRange
 	}
 	return cut(a, width-bits.Len(uint(a^b))), nil
 }
 
-func isAddress(a int) bool {
+// Valid says whether a number is an address.
+func Valid(a int) bool {
 	return a >= 0 && a <= api.MaxAddr
 }
 
