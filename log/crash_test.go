@@ -70,6 +70,30 @@ func TestL2PowerIsOff(t *testing.T) {
 	}
 }
 
+// TestL2Off has it told that the power is off, from the step on in which it goes off until a crash.
+func TestL2Off(t *testing.T) {
+	for _, step := range []func(g *log.Log) error{
+		func(g *log.Log) error { return g.Append(kv) },
+		(*log.Log).Sync,
+	} {
+		g := kept(t)
+		g.Fail(1)
+		for i, want := range []bool{false, true, true} {
+			if err := step(g); (err != nil) != want || g.Off() != want {
+				t.Errorf("step %d: tells %v, off %v, want %v", i, err, g.Off(), want)
+			}
+		}
+		g.Fail(-1)
+		if !g.Off() {
+			t.Errorf("Fail has the power on")
+		}
+		g.Crash(0)
+		if g.Off() {
+			t.Errorf("Crash leaves the power off")
+		}
+	}
+}
+
 // TestL2RoomOfHalves has the bytes of a list that was not done count, too.
 func TestL2RoomOfHalves(t *testing.T) {
 	g := fresh(t, 9)

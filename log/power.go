@@ -10,6 +10,9 @@ type power struct {
 	whole int
 }
 
+// Off tells whether the power is off.
+func (p *power) Off() bool { return p.off }
+
 func (p *power) failIn(n int) { p.whole = n }
 
 // failing takes a step, and tells whether it is the one in which the power goes off.

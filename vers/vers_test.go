@@ -310,6 +310,30 @@ func TestV2Touched(t *testing.T) {
 	}
 }
 
+// TestV2TouchedOneKey has stretches with one key in them, and such as are nearly so.
+func TestV2TouchedOneKey(t *testing.T) {
+	v := vers.New()
+	wantTouched(t, v, "", "\x00", 0, false, api.OK)
+	put(t, v, "a\x00", "x", 2)
+	wantTouched(t, v, "a", "a\x00", 0, false, api.OK)
+	wantTouched(t, v, "a", "a\x01", 1, true, api.OK)
+	wantTouched(t, v, "a", "a\x01", 2, false, api.OK)
+	wantTouched(t, v, "a\x00", "a\x00\x00", 1, true, api.OK)
+	wantTouched(t, v, "a\x00", "a\x00\x00", 2, false, api.OK)
+	put(t, v, "a", "x", 3)
+	wantTouched(t, v, "a", "a\x00", 2, true, api.OK)
+	wantTouched(t, v, "a", "a\x00", 3, false, api.OK)
+	wantTouched(t, v, "a\x00", "a\x00\x00", 2, false, api.OK)
+	wantTouched(t, v, "b", "b\x00", 0, false, api.OK)
+	drop(t, v, "a", 5)
+	wantTouched(t, v, "a", "a\x00", 4, true, api.OK)
+	wantCollect(t, v, 5, 2, api.OK)
+	wantTouched(t, v, "a", "a\x00", 0, false, api.OK)
+	for _, at := range wrongNumbers {
+		wantTouched(t, v, "a", "a\x00", at, false, api.ErrRange)
+	}
+}
+
 func TestV3Collect(t *testing.T) {
 	v := vers.New()
 	put(t, v, "a", "a1", 1)
