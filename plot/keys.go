@@ -40,15 +40,6 @@ func (k kind) cut(key string) (net, digits string, ok bool) {
 	return net, digits, ok && Name(net) == nil
 }
 
-// readAddr of a key.
-func readAddr(key string) (a int, ok bool) {
-	_, digits, ok := addrs.cut(key)
-	if !ok || len(digits) != addrDigits {
-		return 0, false
-	}
-	return read(digits, 16)
-}
-
 // write a number with that many digits, or as many as it needs.
 func write(n, base, digits int) string {
 	s := strconv.FormatInt(int64(n), base)

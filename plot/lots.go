@@ -61,7 +61,7 @@ func (w work) placed() ([]int, error) {
 	}
 	var l []int
 	for _, pair := range pairs {
-		if a, ok := readAddr(pair.Key); ok {
+		if _, a, err := ReadAddr(pair.Key); err == nil {
 			l = append(l, a)
 		}
 	}

@@ -191,9 +191,18 @@ func TestP1ReadWhatIsWritten(t *testing.T) {
 					t.Fatalf("ReadPrefix of %q: %q %v %v", key, net, q, err)
 				}
 			}
-			if key, want := plot.AddrKey("xy", a), fmt.Sprintf("a/xy/%08x", a); key != want {
+			key := plot.AddrKey("xy", a)
+			if want := fmt.Sprintf("a/xy/%08x", a); key != want {
 				t.Fatalf("AddrKey of %d: %q, want %q", a, key, want)
 			}
+			if net, b, err := plot.ReadAddr(key); net != "xy" || b != a || err != nil {
+				t.Fatalf("ReadAddr of %q: %q %d %v", key, net, b, err)
+			}
+		}
+	}
+	for _, name := range names {
+		if net, err := plot.ReadNet(plot.NetKey(name)); net != name || err != nil {
+			t.Fatalf("ReadNet of %q: %q %v", plot.NetKey(name), net, err)
 		}
 	}
 }
@@ -245,6 +254,50 @@ func TestP1ReadPrefixEachByte(t *testing.T) {
 				wantRead(t, key[:at]+string([]byte{byte(b)})+key[at:])
 			}
 		}
+	}
+}
+
+var (
+	netKey  = regexp.MustCompile(`\An/([a-z]{1,8})\z`)
+	addrKey = regexp.MustCompile(`\Aa/([a-z]{1,8})/([0-9a-f]{8})\z`)
+)
+
+// wantReadOthers holds ReadNet and ReadAddr to another way of reading.
+func wantReadOthers(t *testing.T, key string) {
+	t.Helper()
+	net, a, want := "", 0, api.ErrSyntax
+	if m := netKey.FindStringSubmatch(key); m != nil {
+		net, want = m[1], api.OK
+	}
+	if got, err := plot.ReadNet(key); got != net || plain.Told(err) != want {
+		t.Errorf("ReadNet of %q: %q %v, want %q %v", key, got, err, net, want)
+	}
+	net, want = "", api.ErrSyntax
+	if m := addrKey.FindStringSubmatch(key); m != nil {
+		n, _ := strconv.ParseInt(m[2], 16, 64)
+		net, a, want = m[1], int(n), api.OK
+	}
+	if gotNet, got, err := plot.ReadAddr(key); gotNet != net || got != a || plain.Told(err) != want {
+		t.Errorf("ReadAddr of %q: %q %d %v, want %q %d %v", key, gotNet, got, err, net, a, want)
+	}
+}
+
+// TestP1ReadOthersEachByte has each byte instead of, and ahead of, each one of keys, and each one left out.
+func TestP1ReadOthersEachByte(t *testing.T) {
+	for _, key := range []string{"n/x", "n/abcdefgh", "n/n", "a/x/00000040", "a/abcdefgh/ffffffff", "a/a/abcdefab", "p/x/0000004026", ""} {
+		wantReadOthers(t, key)
+		for at := range len(key) {
+			wantReadOthers(t, key[:at])
+			wantReadOthers(t, key[:at]+key[at+1:])
+			for b := range 256 {
+				wantReadOthers(t, key[:at]+string([]byte{byte(b)})+key[at+1:])
+				wantReadOthers(t, key[:at]+string([]byte{byte(b)})+key[at:])
+			}
+		}
+	}
+	for _, name := range wrongNames {
+		wantReadOthers(t, "n/"+name)
+		wantReadOthers(t, "a/"+name+"/00000000")
 	}
 }
 
